@@ -1,0 +1,1 @@
+"""What a cache keeps, by five rules."""
