@@ -1,4 +1,4 @@
-"""How many misses a row of uses has, by each of the five rules."""
+"""How many misses a row of uses has, by each of the five rules, and by rule 1 for each room."""
 
 LAST_RULE = 4
 MOST_ROOM = 1024
@@ -113,3 +113,34 @@ def misses(rule, room, keys):
         if not lines.use(key):
             missed += 1
     return [missed]
+
+
+def count_by_room(most, keys):
+    """Count for each room the uses that find their key with so much room, but not with less.
+
+    By rule 1 a room holds the keys used last, so it holds all that a smaller one
+    does. One row, the key used last ahead, tells of every room then: the key at
+    place p is there in each room greater than p, and in no other.
+    """
+    found = [0] * (most + 1)
+    recent = []
+    for key in keys:
+        if key in recent:
+            place = recent.index(key)
+            recent.pop(place)
+            found[place + 1] += 1
+        recent.insert(0, key)
+        if len(recent) > most:
+            recent.pop()
+    return found
+
+
+def curve(most, keys):
+    """Answer 0, then for each room from 1 to most the misses by rule 1."""
+    found = count_by_room(most, keys)
+    missed = len(keys)
+    answer = [0]
+    for room in range(1, most + 1):
+        missed -= found[room]
+        answer.append(missed)
+    return answer

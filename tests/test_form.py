@@ -23,6 +23,12 @@ class Interface(unittest.TestCase):
         self.assertEqual(module.misses.__module__, "cacherules.misses")
         self.assertEqual(module.misses(rule=1, room=2, keys=[1, 2, 1, 3, 1]), [3])
 
+    def test_curve_takes_most_and_keys(self):
+        asked = inspect.getfullargspec(module.curve)
+        self.assertEqual(asked, (["most", "keys"], None, None, None, [], None, {}))
+        self.assertEqual(module.curve.__module__, "cacherules.misses")
+        self.assertEqual(module.curve(most=3, keys=[1, 2, 1, 3, 1]), [0, 5, 3, 3])
+
     def test_the_package_holds_nothing_but_its_files(self):
         held = {path.name for path in PACKAGE.iterdir()} - {"__pycache__"}
         self.assertEqual(held, set(sources()))
@@ -42,6 +48,8 @@ class OnlyCounts(unittest.TestCase):
         with contextlib.redirect_stdout(out), contextlib.redirect_stderr(err):
             for rule in range(-1, 6):
                 module.misses(rule, 2, [1, 2, 1, 3, 1])
+            for most in (0, 1, 2, 1024):
+                module.curve(most, [1, 2, 1, 3, 1])
         self.assertEqual(out.getvalue() + err.getvalue(), "")
 
     def test_nothing_kept_at_a_files_top_can_change(self):

@@ -302,55 +302,5 @@ class Refused(unittest.TestCase):
                 self.assertEqual(misses(rule, room, [9]), [1])
 
 
-class Unchanging(list):
-    """A list that can be read alone."""
-
-    def refuse(self, *args, **kwargs):
-        raise AssertionError("what is handed in was changed")
-
-    append = clear = extend = insert = pop = remove = reverse = sort = refuse
-    __delitem__ = __iadd__ = __imul__ = __setitem__ = refuse
-
-
-class WhatIsGivenBack(unittest.TestCase):
-    row = (1, 2, 1, 3, 4, 2, 2, 3, 4, 3, 0, TOP_KEY, 1)
-
-    def test_a_list_of_one_whole_number(self):
-        for rule in RULES + (-1, 5):
-            for room in (0, 1, 3, 1024, 1025):
-                for keys in ([], list(self.row)):
-                    answer = misses(rule, room, keys)
-                    self.assertIs(type(answer), list)
-                    self.assertEqual(len(answer), 1)
-                    self.assertIs(type(answer[0]), int)
-
-    def test_what_is_handed_in_is_as_it_was(self):
-        for rule in RULES:
-            keys = list(self.row)
-            self.assertIsNot(misses(rule, 3, keys), keys)
-            self.assertEqual(keys, list(self.row))
-
-    def test_what_is_handed_in_is_not_changed_for_a_while_either(self):
-        for rule in RULES:
-            self.assertEqual(misses(rule, 3, Unchanging(self.row)), misses(rule, 3, list(self.row)))
-
-    def test_nothing_is_kept_from_one_time_to_the_next(self):
-        for rule in RULES:
-            keys = list(self.row)
-            first = misses(rule, 3, keys)
-            misses(rule, 1024, [1, 2, 3, 4])
-            misses(-1, 3, keys)
-            self.assertEqual(misses(rule, 3, keys), first)
-            self.assertEqual(misses(rule, 3, list(self.row)), first)
-
-    def test_an_answer_that_is_changed_changes_no_later_one(self):
-        first = misses(0, 3, [1, 2])
-        first.append(5)
-        refused = misses(5, 3, [1, 2])
-        refused.append(5)
-        self.assertEqual(misses(0, 3, [1, 2]), [2])
-        self.assertEqual(misses(5, 3, [1, 2]), [-2])
-
-
 if __name__ == "__main__":
     unittest.main()
