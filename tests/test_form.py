@@ -7,6 +7,7 @@ import io
 import pathlib
 import unittest
 
+from cacherules import cache
 from cacherules import misses as module
 
 PACKAGE = pathlib.Path(module.__file__).parent
@@ -29,6 +30,12 @@ class Interface(unittest.TestCase):
         self.assertEqual(module.curve.__module__, "cacherules.misses")
         self.assertEqual(module.curve(most=3, keys=[1, 2, 1, 3, 1]), [0, 5, 3, 3])
 
+    def test_answers_takes_calls(self):
+        asked = inspect.getfullargspec(cache.answers)
+        self.assertEqual(asked, (["calls"], None, None, None, [], None, {}))
+        self.assertEqual(cache.answers.__module__, "cacherules.cache")
+        self.assertEqual(cache.answers(calls=[1, 1, 2, 2, 7, 5]), [1, 0, 1, 0, 2, 1, 7])
+
     def test_the_package_holds_nothing_but_its_files(self):
         held = {path.name for path in PACKAGE.iterdir()} - {"__pycache__"}
         self.assertEqual(held, set(sources()))
@@ -50,6 +57,8 @@ class OnlyCounts(unittest.TestCase):
                 module.misses(rule, 2, [1, 2, 1, 3, 1])
             for most in (0, 1, 2, 1024):
                 module.curve(most, [1, 2, 1, 3, 1])
+            for rule in range(5):
+                cache.answers([1, rule, 1, 2, 7, 2, 7, 2, 8, 4, 7, 5, 3, 8, 3, 8, 5, 1, 5, 0])
         self.assertEqual(out.getvalue() + err.getvalue(), "")
 
     def test_nothing_kept_at_a_files_top_can_change(self):
